@@ -637,7 +637,6 @@ func TestAsManyAsMayBe(t *testing.T) {
 		want(t, "Put", Put(d, height, api.MaxLeaves, nil), api.ErrArg)
 		want(t, "Put", Put(d, height, api.MaxLeaves-1, nil), api.ErrRange)
 		want(t, "Trim", Trim(d, height, api.MaxLeaves+1), api.ErrRange)
-		want(t, "Trim", Trim(d, height, api.MaxLeaves), api.OK)
 		holdRaws(t, d, wrote)
 		want(t, "Trim", Trim(d, height, api.MaxLeaves-1), api.OK)
 		holdRaws(t, d, wrote, cut(fileOf(height, last), 2<<height-2))
@@ -757,6 +756,91 @@ func TestTrimWrites(t *testing.T) {
 		holdRaws(t, d, wrote, raws...)
 		hold(t, d, 1, []string{"a", "bc", "", "d", "e"}[:n])
 		unchanged(t, d, func() { want(t, "Trim", Trim(d, 1, n), api.OK) })
+	}
+}
+
+// fill makes a height's MaxLeaves leaves be there, each without bytes.
+func fill(t *testing.T, d *disk.Disk, height int) {
+	t.Helper()
+	leaves := make([]byte, 2<<height)
+	for number := range api.MaxLeaves >> height {
+		name := fileOf(height, number)
+		if d.Create(name) != api.OK || d.Append(name, leaves) != api.OK {
+			t.Fatal(name)
+		}
+	}
+	if n := count(t, d, height); n != api.MaxLeaves {
+		t.Fatal(height, n)
+	}
+}
+
+// holdTrimOfAll fails unless Trim(MaxLeaves) does just these raw writes.
+func holdTrimOfAll(t *testing.T, d *disk.Disk, height int, raws ...api.Raw) {
+	t.Helper()
+	wrote := d.Writes()
+	want(t, "Trim", Trim(d, height, api.MaxLeaves), api.OK)
+	holdRaws(t, d, wrote, raws...)
+}
+
+func TestTrimOfAsManyAsMayBe(t *testing.T) {
+	for height := 1; height <= 8; height++ {
+		d := newDisk(t, 4096)
+		fill(t, d, height)
+		own := api.MaxLeaves >> height
+		name := fileOf(height, own)
+		// Of the files behind all others only that of MaxLeaves is one of this height's that Trim looks at.
+		lay(t, d, map[string]string{fileOf(height, own+1): "torn", fileOf(height, 999999): laid("a"), fmt.Sprintf("leaf/%d/%d", height, 1000000+own): "torn", fileOf(height%8+1, own): "torn", fileOf(9, own): "torn"})
+		holdTrimOfAll(t, d, height)
+		contents := []string{"xyz", "\x00", laid(""), laid("a", "bc"), string(make([]byte, 2<<height)), string(make([]byte, 2<<height+1)), some(height, 5000)}
+		if height < 5 {
+			// Each Trim goes through very many files here.
+			contents = contents[height-1 : height]
+		}
+		want(t, "Create", d.Create(name), api.OK)
+		for _, x := range contents {
+			want(t, "Append", d.Append(name, []byte(x)), api.OK)
+			holdTrimOfAll(t, d, height, cut(name, 0))
+		}
+		holdTrimOfAll(t, d, height)
+		if n := count(t, d, height); n != api.MaxLeaves {
+			t.Fatal(height, n)
+		}
+	}
+}
+
+func TestTrimOfOneFewer(t *testing.T) {
+	for height := 5; height <= 8; height++ {
+		d := newDisk(t, 4096)
+		fill(t, d, height)
+		own := api.MaxLeaves >> height
+		// The file of n is another one, and that of MaxLeaves stays as it is.
+		lay(t, d, map[string]string{fileOf(height, own): "xyz"})
+		wrote := d.Writes()
+		want(t, "Trim", Trim(d, height, api.MaxLeaves+1), api.ErrRange)
+		want(t, "Trim", Trim(d, height, api.MaxLeaves-1), api.OK)
+		want(t, "Trim", Trim(d, height, api.MaxLeaves), api.ErrRange)
+		holdRaws(t, d, wrote, cut(fileOf(height, own-1), 2<<height-2))
+		want(t, "Put", Put(d, height, api.MaxLeaves-1, nil), api.OK)
+		holdTrimOfAll(t, d, height, cut(fileOf(height, own), 0))
+		wrote = d.Writes()
+		want(t, "Trim", Trim(d, height, api.MaxLeaves-1<<height), api.OK)
+		holdRaws(t, d, wrote, removed(fileOf(height, own-1)))
+	}
+}
+
+func TestTrimOfAsManyAsMayBeBehindALongFile(t *testing.T) {
+	d := newDisk(t, 4096)
+	fill(t, d, 8)
+	// The last file's bytes behind its leaves are not those of the file of MaxLeaves.
+	want(t, "Append", d.Append(fileOf(8, 4095), []byte("more")), api.OK)
+	holdTrimOfAll(t, d, 8)
+	lay(t, d, map[string]string{fileOf(8, 4096): laid("a") + "torn"})
+	ahead := d.Writes()
+	holdTrimOfAll(t, d, 8, cut(fileOf(8, 4096), 0))
+	o := after(t, d, ahead)
+	holdTrimOfAll(t, o, 8, cut(fileOf(8, 4096), 0))
+	if !o.Same(d) {
+		t.Error("other files than without the loss of power")
 	}
 }
 
